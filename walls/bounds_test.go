@@ -21,6 +21,14 @@ func ask(t *testing.T, c api.Config, core, d, k int) {
 	if (want != api.OK && e != want) || (want == api.OK && e != api.OK && e != api.ErrArg) || (e != api.OK && n != 0) || n < 0 {
 		t.Errorf("P1, P5: Enough(%+v, %d, %d, %d) = %d, %d, but Check = %d", c, core, d, k, n, e, want)
 	}
+	owner, open, e := Turn(c, core, k)
+	if (want != api.OK && e != want) || (want == api.OK && e != api.OK && e != api.ErrArg) || (e != api.OK && (owner != 0 || open)) || (owner == -1 && open) {
+		t.Errorf("P1, P6: Turn(%+v, %d, %d) = %d, %v, %d, but Check = %d", c, core, k, owner, open, e, want)
+	}
+	n, e = Wait(c, d, k)
+	if (want != api.OK && e != want) || (want == api.OK && e != api.OK && e != api.ErrArg) || (e != api.OK && n != 0) || (e == api.OK && n < k) {
+		t.Errorf("P1, P6: Wait(%+v, %d, %d) = %d, %d, but Check = %d", c, d, k, n, e, want)
+	}
 }
 
 func TestP1Numbers(t *testing.T) {
@@ -122,6 +130,12 @@ func TestP2NotWritten(t *testing.T) {
 		Worst(c)
 		Enough(c, 0, 0, 64)
 		Enough(c, 0, 9, 64)
+		for _, cycle := range []int{0, 1, 39, 40, 45, 10000, 10001} {
+			Turn(c, 0, cycle)
+			Turn(c, c.Cores-1, cycle)
+			Wait(c, 0, cycle)
+			Wait(c, c.Domains-1, cycle)
+		}
 		if !reflect.DeepEqual(c, twin) || !reflect.DeepEqual(whole(c), whole(twin)) {
 			t.Errorf("P2: configuration %d was written into: %v, was %v", i, whole(c), whole(twin))
 		}
@@ -133,6 +147,8 @@ func TestP2NotKept(t *testing.T) {
 	Check(c)
 	Worst(c)
 	Enough(c, 1, 1, 2)
+	Turn(c, 1, 45)
+	Wait(c, 1, 0)
 	c.Ways[0], c.Slots[0], c.Turns[1][0], c.Turns[1][1] = 5, 5, 5, 5
 	if e := Check(c); e != api.ErrWays {
 		t.Errorf("P2: Check of a list written into since = %d, want ErrWays", e)
@@ -141,6 +157,13 @@ func TestP2NotKept(t *testing.T) {
 	c.Turns[1] = []int{0, -1, -1, 1}
 	if n, e := Enough(c, 1, 1, 2); n != 320 || e != api.OK {
 		t.Errorf("P2: Enough behind a change = %d, %d, want 320", n, e)
+	}
+	c.Slots[0], c.Slots[1] = 1, 0
+	if d, open, e := Turn(c, 1, 45); d != -1 || open || e != api.OK {
+		t.Errorf("P2: Turn behind a change = %d, %v, %d, want -1, false", d, open, e)
+	}
+	if n, e := Wait(c, 1, 0); n != 1 || e != api.OK {
+		t.Errorf("P2: Wait behind a change = %d, %d, want 1", n, e)
 	}
 	if n, e := Enough(confB(), 1, 1, 2); n != 160 || e != api.OK {
 		t.Errorf("P2: Enough of the first configuration = %d, %d, want 160", n, e)

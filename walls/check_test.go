@@ -267,6 +267,12 @@ func TestP1FirstError(t *testing.T) {
 		if n, e := Enough(c, 9, 9, 99); e != want || n != 0 {
 			t.Errorf("P5: errors %05b: Enough = %d, %d, want 0, %d", set, n, e, want)
 		}
+		if d, open, e := Turn(c, 9, -1); e != want || d != 0 || open {
+			t.Errorf("P6: errors %05b: Turn = %d, %v, %d, want 0, false, %d", set, d, open, e, want)
+		}
+		if n, e := Wait(c, 9, -1); e != want || n != 0 {
+			t.Errorf("P6: errors %05b: Wait = %d, %d, want 0, %d", set, n, e, want)
+		}
 	}
 }
 

@@ -4,6 +4,7 @@ package walls
 import (
 	"walls/api"
 	"walls/config"
+	"walls/ways"
 )
 
 // Check tells whether a configuration is right (P3).
@@ -24,13 +25,19 @@ func Enough(c api.Config, core int, d int, k int) (int, api.Errno) {
 }
 
 // Turn tells whose turn it is at a core in a cycle, and whether the cycle is open there (P6).
-func Turn(c api.Config, core int, t int) (int, bool, api.Errno) { return 0, false, api.OK }
+func Turn(c api.Config, core int, t int) (int, bool, api.Errno) {
+	return config.Turn(c, core, t)
+}
 
 // Wait tells the next service cycle of a domain (P6).
-func Wait(c api.Config, d int, t int) (int, api.Errno) { return 0, api.OK }
+func Wait(c api.Config, d int, t int) (int, api.Errno) {
+	return config.Wait(c, d, t)
+}
 
 // Victim tells which of some ways gives way (P7).
-func Victim(n int, touched []int) (int, api.Errno) { return 0, api.OK }
+func Victim(n int, touched []int) (int, api.Errno) {
+	return ways.Victim(n, touched)
+}
 
 // Machine is a machine.
 type Machine struct{}

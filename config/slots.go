@@ -25,3 +25,15 @@ func Wait(c api.Config, d int, t int) (int, api.Errno) {
 	}
 	return k*c.Slot + c.Slot - 1, api.OK
 }
+
+// Served is the domain of which t is a service cycle, or -1. It trusts that the configuration is right.
+func Served(c api.Config, t int) int {
+	if t < 0 || c.Slot < 1 || len(c.Slots) == 0 {
+		return -1
+	}
+	if t%c.Slot != c.Slot-1 {
+		return -1
+	}
+	slot := t / c.Slot
+	return c.Slots[slot%len(c.Slots)]
+}

@@ -8,18 +8,33 @@ func Turn(c api.Config, core int, t int) (int, bool, api.Errno) {
 	if e != api.OK {
 		return 0, false, e
 	}
-	// Check has seen that there are just as many lists as cores.
-	if core < 0 || core >= len(c.Turns) {
+	if !within(core, 0, c.Cores-1) {
 		return 0, false, api.ErrArg
 	}
 	if !within(t, 0, api.MaxTime) {
 		return 0, false, api.ErrArg
 	}
-	// Check has seen that Quantum is above 0 and that no list is empty.
+	owner, open := Owner(c, core, t)
+	return owner, open, api.OK
+}
+
+// Owner answers as Turn, but trusts that the configuration is right: a machine asks it in every cycle.
+func Owner(c api.Config, core int, t int) (int, bool) {
+	if core < 0 || core >= len(c.Turns) {
+		return -1, false
+	}
 	list := c.Turns[core]
+	if t < 0 || c.Quantum < 1 || len(list) == 0 {
+		return -1, false
+	}
 	turn := t / c.Quantum
 	place := t % c.Quantum
 	owner := list[turn%len(list)]
 	open := owner >= 0 && place < c.Quantum-c.Flush-Worst(c)
-	return owner, open, api.OK
+	return owner, open
+}
+
+// Flushes tells whether t is a flush cycle. It trusts that the configuration is right.
+func Flushes(c api.Config, t int) bool {
+	return t >= 0 && c.Quantum >= 1 && t%c.Quantum == c.Quantum-c.Flush
 }

@@ -4,6 +4,7 @@ package walls
 import (
 	"walls/api"
 	"walls/config"
+	"walls/machine"
 	"walls/ways"
 )
 
@@ -40,28 +41,36 @@ func Victim(n int, touched []int) (int, api.Errno) {
 }
 
 // Machine is a machine.
-type Machine struct{}
+type Machine struct {
+	inner machine.Machine
+}
 
 // New makes a machine (P8).
-func New(c api.Config) (*Machine, api.Errno) { return nil, api.OK }
+func New(c api.Config) (*Machine, api.Errno) {
+	inner, e := machine.New(c)
+	if e != api.OK {
+		return nil, e
+	}
+	return &Machine{inner: inner}, api.OK
+}
 
 // Give lays down the program of a domain at a core (P9).
-func (m *Machine) Give(d int, core int, ops []api.Op) api.Errno { return api.OK }
+func (m *Machine) Give(d int, core int, ops []api.Op) api.Errno { return m.inner.Give(d, core, ops) }
 
 // Fill lays down one of a domain's own words (P10).
-func (m *Machine) Fill(d int, a int, v int) api.Errno { return api.OK }
+func (m *Machine) Fill(d int, a int, v int) api.Errno { return m.inner.Fill(d, a, v) }
 
 // Share lays down one of the shared words (P10).
-func (m *Machine) Share(a int, v int) api.Errno { return api.OK }
+func (m *Machine) Share(a int, v int) api.Errno { return m.inner.Share(a, v) }
 
 // Run lets cycles go by (P11 to P13).
-func (m *Machine) Run(n int) api.Errno { return api.OK }
+func (m *Machine) Run(n int) api.Errno { return m.inner.Run(n) }
 
 // Now tells the time (P11).
-func (m *Machine) Now() int { return 0 }
+func (m *Machine) Now() int { return m.inner.Now() }
 
 // Trace tells what is done of a domain's operations (P14).
-func (m *Machine) Trace(d int) ([]api.Event, api.Errno) { return nil, api.OK }
+func (m *Machine) Trace(d int) ([]api.Event, api.Errno) { return m.inner.Trace(d) }
 
 // Near tells what lies in a core's near cache (P15).
 func (m *Machine) Near(core int) ([]api.Copy, api.Errno) { return nil, api.OK }

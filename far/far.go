@@ -100,6 +100,18 @@ func (c *Cache) At(x int, way int) Block {
 	return c.sets[s].blocks[way]
 }
 
+// Blocks lists what lies there, set by set, in a set way by way.
+func (c *Cache) Blocks() []api.Block {
+	var list []api.Block
+	for s := 0; s < len(c.sets); s++ {
+		for w := 0; w < len(c.sets[s].blocks); w++ {
+			b := c.sets[s].blocks[w]
+			list = append(list, api.Block{Line: b.Line, Marked: b.Marked})
+		}
+	}
+	return list
+}
+
 // Lay puts a block into a way of the set of the line x, in the place of what lay there.
 func (c *Cache) Lay(x int, way int, b Block) {
 	s := c.setOf(x)

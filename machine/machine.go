@@ -147,3 +147,30 @@ func (m *Machine) Trace(d int) ([]api.Event, api.Errno) {
 	copy(events, m.domains[d].trace)
 	return events, api.OK
 }
+
+// Near tells what lies in a core's near cache, place by place (P15).
+func (m *Machine) Near(core int) ([]api.Copy, api.Errno) {
+	if core < 0 || core >= m.conf.Cores {
+		return nil, api.ErrArg
+	}
+	return m.near.Copies(core), api.OK
+}
+
+// Far tells what lies in a domain's ways of the far cache (P15).
+func (m *Machine) Far(d int) ([]api.Block, api.Errno) {
+	if d < 0 || d >= len(m.domains) {
+		return nil, api.ErrArg
+	}
+	return m.domains[d].far.Blocks(), api.OK
+}
+
+// Memory tells what stands in memory, which may be older than what lies in the caches (P15).
+func (m *Machine) Memory(d int, a int) (int, api.Errno) {
+	if d < 0 || d >= m.conf.Domains {
+		return 0, api.ErrArg
+	}
+	if a < 0 || a >= m.conf.Private+m.conf.Shared {
+		return 0, api.ErrArg
+	}
+	return m.memory.Word(d, a), api.OK
+}

@@ -60,6 +60,16 @@ func (n *Caches) State(core int, d int, x int) int {
 	return lies.State
 }
 
+// Copies lists what lies at a core, place by place, or gives nil if there is no such core.
+func (n *Caches) Copies(core int) []api.Copy {
+	if core < 0 || core >= len(n.cores) {
+		return nil
+	}
+	list := make([]api.Copy, len(n.cores[core]))
+	copy(list, n.cores[core])
+	return list
+}
+
 // Put lays a copy of d's line x at a core, in the place of what lay there.
 func (n *Caches) Put(core int, d int, x int, state int) {
 	place := n.place(core, x)

@@ -105,12 +105,104 @@ func TestP18Drawn(t *testing.T) {
 			q := p.others(r, d)
 			m, n := p.set(t), q.set(t)
 			for m.Now() < 10000 {
-				step := min(10000-m.Now(), 1+r.Intn(4000))
+				alike(t, m, n, d)
+				step := min(10000-m.Now(), 1+r.Intn(100+4*m.Now()))
 				fine(t, m.Run(step))
 				fine(t, n.Run(step))
-				want, _ := m.Trace(d)
-				traced(t, n, d, want...)
 			}
+			alike(t, m, n, d)
+			if t.Failed() {
+				t.Fatalf("P18: it is so of %+v", p)
+			}
+		}
+	}
+}
+
+// soleOnes holds the near copies of a machine against P19: by domain and line, they are counted, and those that must be
+// the only one.
+func soleOnes(t *testing.T, m *Machine, c api.Config) {
+	t.Helper()
+	copies, sole := map[[2]int]int{}, map[[2]int]int{}
+	for core := 0; core < c.Cores; core++ {
+		list, _ := m.Near(core)
+		for place, lies := range list {
+			if lies == noCopy {
+				continue
+			}
+			if lies.Line%c.Near != place || lies.State < api.Common || lies.State > api.Changed {
+				t.Fatalf("P15: of %+v at the time %d there lies %v at the place %d", c, m.Now(), lies, place)
+			}
+			at := [2]int{lies.Domain, lies.Line}
+			copies[at]++
+			if lies.State != api.Common {
+				sole[at]++
+			}
+			far, _ := m.Far(lies.Domain)
+			if !slices.Contains(far, block(lies.Line, true)) && (lies.State == api.Changed || !slices.Contains(far, block(lies.Line, false))) {
+				t.Fatalf("P19: of %+v at the time %d there lies %v at the core %d, in the far cache %v", c, m.Now(), lies, core, far)
+			}
+			if lies.Line*c.Line >= c.Private && lies.State != api.Common {
+				t.Fatalf("P19: of %+v at the time %d a copy of a shared line is %v", c, m.Now(), lies)
+			}
+		}
+	}
+	for at := range sole {
+		if copies[at] > 1 {
+			t.Fatalf("P19: of %+v at the time %d there are %d copies of the line %d of %d", c, m.Now(), copies[at], at[1], at[0])
+		}
+	}
+}
+
+// stands holds memory against P19: words is what a domain's words are, by what is done.
+func stands(t *testing.T, m *Machine, c api.Config, d int, words []int) {
+	t.Helper()
+	far, _ := m.Far(d)
+	marked := map[int]bool{}
+	lines := map[int]int{}
+	for i, b := range far {
+		if b == noBlock {
+			continue
+		}
+		marked[b.Line] = b.Marked
+		lines[b.Line]++
+		if lines[b.Line] > 1 || b.Line%c.Sets != i/(len(far)/c.Sets) {
+			t.Fatalf("P15: of %+v at the time %d Far(%d) is %v", c, m.Now(), d, far)
+		}
+		if b.Marked && b.Line*c.Line >= c.Private {
+			t.Fatalf("P19: of %+v at the time %d the shared line %d of %d is marked", c, m.Now(), b.Line, d)
+		}
+	}
+	for a := range words {
+		v, e := m.Memory(d, a)
+		if e != api.OK || (v != words[a] && !marked[a/c.Line]) {
+			t.Fatalf("P19: of %+v at the time %d Memory(%d, %d) is %d, %d, the word is %d", c, m.Now(), d, a, v, e, words[a])
+		}
+	}
+}
+
+func TestP19Drawn(t *testing.T) {
+	r := rand.New(rand.NewSource(11))
+	for i := 0; i < 200; i++ {
+		p := drawnPlay(r)
+		m := p.set(t)
+		for m.Now() < 10000 {
+			soleOnes(t, m, p.c)
+			for d := range p.ops {
+				words := append(slices.Clone(p.own[d]), p.shared...)
+				list, _ := m.Trace(d)
+				for _, e := range list {
+					op := p.ops[d][e.Core][e.Index]
+					if e.Fault == api.NoFault && op.Kind == api.Store {
+						words[op.Addr] = op.Val
+					}
+				}
+				stands(t, m, p.c, d, words)
+			}
+			step := 1
+			if m.Now() > 500 {
+				step = 1 + r.Intn(500)
+			}
+			fine(t, m.Run(min(10000-m.Now(), step)))
 		}
 	}
 }

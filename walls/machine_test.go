@@ -317,6 +317,9 @@ func spoiled(m *Machine) {
 	m.Run(10001)
 	m.Trace(-1)
 	m.Trace(2)
+	m.Near(2)
+	m.Far(-1)
+	m.Memory(0, 6)
 	if m.Now() > 0 {
 		m.Give(0, 0, []api.Op{load(3)})
 		m.Give(0, 1, nil)
@@ -327,10 +330,13 @@ func spoiled(m *Machine) {
 }
 
 func TestP1NothingChanged(t *testing.T) {
-	m := exampleB(t)
+	m, twin := exampleB(t), exampleB(t)
 	for time := 0; time < 100; time++ {
 		spoiled(m)
+		alike(t, twin, m, 0)
+		alike(t, twin, m, 1)
 		fine(t, m.Run(1))
+		fine(t, twin.Run(1))
 		traced(t, m, 0, before(traceB, time+1)...)
 		traced(t, m, 1)
 	}
@@ -348,11 +354,14 @@ func TestP1Machines(t *testing.T) {
 					m.Give(0, 0, []api.Op{{Kind: v, Addr: w, Val: v}})
 					m.Fill(v, w, v)
 					m.Share(v, w)
+					m.Memory(v, w)
 				}
 				if v <= 0 || v > 10000 {
 					m.Run(v)
 				}
 				m.Trace(v)
+				m.Near(v)
+				m.Far(v)
 			}
 			fine(t, m.Run(2000))
 		}
@@ -449,6 +458,7 @@ func TestP2Machines(t *testing.T) {
 			want := slices.Clone(traceB)
 			want[0].Value, want[1].Value, want[3].Value, want[4].Value = 5+i, i, 6+i, 10*i
 			traced(t, m, 0, before(want, time+1)...)
+			words(t, m, 0, 0, i, 0, 0, 10*i, 0)
 		}
 	}
 }

@@ -10,6 +10,7 @@ import (
 
 // A model plays one domain alone, in another way than the machine does: what is stored and what is marked is read off
 // the events so far, all touches are kept, and instead of near caches it has for each line the cores that hold it.
+// Memory is read off the events too: it is what they had stored when the line was last written.
 type model struct {
 	c       api.Config
 	d       int
@@ -20,36 +21,45 @@ type model struct {
 	touched map[int][]int
 	holders map[int]map[int]bool
 	sole    map[int]bool // whether the one holder of a line may store to it
+	since   map[int]int  // of each line that is held: the number of events when a core last got it
+	written map[int]int  // of each line that was written to memory: the number of events then
 	queue   []int
 	got     int // the services that the first of the queue got
 	began   map[int]int
 	done    map[int]int
 	events  []api.Event
+	serving []int // the service cycles to come
+	time    int
 	seen    map[string]int
 }
 
-func modelled(c api.Config, d int, ops [][]api.Op, first []int, seen map[string]int) []api.Event {
-	m := &model{c: c, d: d, ops: ops, first: first, seen: seen}
+func modelled(c api.Config, d int, ops [][]api.Op, first []int, seen map[string]int) *model {
+	m := &model{c: c, d: d, ops: ops, first: first, serving: services(c, d), seen: seen}
 	m.lines, m.filled, m.touched = map[[2]int]int{}, map[[2]int]int{}, map[int][]int{}
 	m.holders, m.sole = map[int]map[int]bool{}, map[int]bool{}
+	m.since, m.written = map[int]int{}, map[int]int{}
 	m.began, m.done = map[int]int{}, map[int]int{}
-	serving := services(c, d)
-	for t := 0; t < 10000; t++ {
-		if (t+c.Flush)%c.Quantum == 0 {
+	return m
+}
+
+// until lets cycles go by up to a time.
+func (m *model) until(time int) {
+	for ; m.time < time; m.time++ {
+		t := m.time
+		if (t+m.c.Flush)%m.c.Quantum == 0 {
 			m.holders = map[int]map[int]bool{}
 		}
 		just := -1
-		if t == serving[0] {
-			serving = serving[1:]
+		if t == m.serving[0] {
+			m.serving = m.serving[1:]
 			just = m.service(t)
 		}
-		for core := 0; core < c.Cores; core++ {
+		for core := 0; core < m.c.Cores; core++ {
 			if core != just {
 				m.core(t, core)
 			}
 		}
 	}
-	return m.events
 }
 
 func (m *model) op(core int) api.Op { return m.ops[core][m.done[core]] }
@@ -70,17 +80,78 @@ func (m *model) end(t, core int) {
 	if e.Fault == api.NoFault && op.Kind == api.Store {
 		e.Value = op.Val
 	} else if e.Fault == api.NoFault {
-		e.Value = m.first[op.Addr]
-		for _, earlier := range m.events {
-			o := m.ops[earlier.Core][earlier.Index]
-			if o.Kind == api.Store && o.Addr == op.Addr && earlier.Fault == api.NoFault {
-				e.Value = earlier.Value
-			}
-		}
+		e.Value = m.word(op.Addr, len(m.events))
 	}
 	m.events = append(m.events, e)
 	m.done[core]++
 	delete(m.began, core)
+}
+
+// word is what stands at an address behind some of the events.
+func (m *model) word(a int, events int) int {
+	v := m.first[a]
+	for _, e := range m.events[:events] {
+		op := m.ops[e.Core][e.Index]
+		if op.Kind == api.Store && op.Addr == a && e.Fault == api.NoFault {
+			v = e.Value
+		}
+	}
+	return v
+}
+
+// stored tells whether one of the events from a number on stored to a line.
+func (m *model) stored(x int, from int) bool {
+	for _, e := range m.events[from:] {
+		op := m.ops[e.Core][e.Index]
+		if op.Kind == api.Store && e.Fault == api.NoFault && op.Addr/m.c.Line == x {
+			return true
+		}
+	}
+	return false
+}
+
+// memory is what stands in memory, address by address.
+func (m *model) memory() []int {
+	var list []int
+	for a := range m.first {
+		list = append(list, m.word(a, m.written[a/m.c.Line]))
+	}
+	return list
+}
+
+// far is what lies in the domain's ways.
+func (m *model) far() []api.Block {
+	var list []api.Block
+	for set := 0; set < m.c.Sets; set++ {
+		for way := 0; way < owners(m.c.Ways)[m.d]; way++ {
+			at := [2]int{set, way}
+			b := api.Block{Line: -1}
+			if line, lies := m.lines[at]; lies {
+				b = api.Block{Line: line, Marked: m.stored(line, m.filled[at])}
+			}
+			list = append(list, b)
+		}
+	}
+	return list
+}
+
+// near is what lies of the domain in the near cache of a core.
+func (m *model) near(core int) []api.Copy {
+	list := slices.Repeat([]api.Copy{noCopy}, m.c.Near)
+	for x, cores := range m.holders {
+		if !cores[core] {
+			continue
+		}
+		state := api.Common
+		if m.sole[x] {
+			state = api.Alone
+		}
+		if m.sole[x] && m.stored(x, m.since[x]) {
+			state = api.Changed
+		}
+		list[x%m.c.Near] = api.Copy{Domain: m.d, Line: x, State: state}
+	}
+	return list
 }
 
 func (m *model) core(t, core int) {
@@ -148,23 +219,14 @@ func (m *model) service(t int) int {
 		old := m.lines[at]
 		m.seen["taken from a core"] += min(len(m.holders[old]), 1)
 		delete(m.holders, old)
-		if m.marked(at) {
+		if m.stored(old, m.filled[at]) {
+			m.written[old] = len(m.events)
 			delete(m.lines, at)
 			return -1
 		}
 	}
 	m.lines[at], m.filled[at] = x, len(m.events)
 	return -1
-}
-
-func (m *model) marked(at [2]int) bool {
-	for _, e := range m.events[m.filled[at]:] {
-		op := m.ops[e.Core][e.Index]
-		if op.Kind == api.Store && e.Fault == api.NoFault && op.Addr/m.c.Line == m.lines[at] {
-			return true
-		}
-	}
-	return false
 }
 
 // hold notes that a core gets a copy: other lines at the same place are gone there.
@@ -174,6 +236,7 @@ func (m *model) hold(core, x int, op api.Op) {
 			delete(cores, core)
 		}
 	}
+	m.since[x] = len(m.events)
 	others := len(m.holders[x])
 	if m.holders[x][core] {
 		others--
@@ -190,7 +253,7 @@ func (m *model) hold(core, x int, op api.Op) {
 		m.holders[x] = map[int]bool{}
 	}
 	m.holders[x][core] = true
-	m.sole[x] = others == 0
+	m.sole[x] = others == 0 && x*m.c.Line < m.c.Private
 }
 
 // A play is a configuration with programs and first words for all domains.
@@ -286,22 +349,29 @@ func (p play) set(t *testing.T) *Machine {
 	return m
 }
 
+// models gives a model of each domain of a play.
+func (p play) models(seen map[string]int) []*model {
+	var list []*model
+	for d := range p.ops {
+		list = append(list, modelled(p.c, d, p.ops[d], append(slices.Clone(p.own[d]), p.shared...), seen))
+	}
+	return list
+}
+
 func TestP12Modelled(t *testing.T) {
 	r := rand.New(rand.NewSource(6))
 	seen := map[string]int{}
 	for i := 0; i < 1200; i++ {
 		p := drawnPlay(r)
-		var want [][]api.Event
-		for d := range p.ops {
-			want = append(want, modelled(p.c, d, p.ops[d], append(slices.Clone(p.own[d]), p.shared...), seen))
-		}
+		want := p.models(seen)
 		m := p.set(t)
 		for m.Now() < 10000 {
 			fine(t, m.Run(min(10000-m.Now(), r.Intn(3000))))
-			for d := range p.ops {
+			for d := range want {
+				want[d].until(m.Now())
 				list, e := m.Trace(d)
-				if e != api.OK || !slices.Equal(list, before(want[d], m.Now())) {
-					t.Fatalf("P12 to P14: of %+v at the time %d Trace(%d) = %v, %d, want %v", p, m.Now(), d, list, e, before(want[d], m.Now()))
+				if e != api.OK || !slices.Equal(list, want[d].events) {
+					t.Fatalf("P12 to P14: of %+v at the time %d Trace(%d) = %v, %d, want %v", p, m.Now(), d, list, e, want[d].events)
 				}
 			}
 		}
@@ -313,5 +383,69 @@ func TestP12Modelled(t *testing.T) {
 	}
 	if seen["more"] > 0 {
 		t.Errorf("P13: %d requests took more than three services", seen["more"])
+	}
+}
+
+// together lays what lies of all domains in a core's near cache over one another.
+func together(t *testing.T, models []*model, core int) []api.Copy {
+	t.Helper()
+	all := slices.Repeat([]api.Copy{noCopy}, models[0].c.Near)
+	for _, m := range models {
+		for place, lies := range m.near(core) {
+			if lies != noCopy && all[place] != noCopy {
+				t.Fatalf("P18: of %+v at the time %d %v and %v lie at one place", m.c, m.time, lies, all[place])
+			}
+			if lies != noCopy {
+				all[place] = lies
+			}
+		}
+	}
+	return all
+}
+
+func TestP15Modelled(t *testing.T) {
+	r := rand.New(rand.NewSource(10))
+	seen := map[string]int{}
+	for i := 0; i < 900; i++ {
+		p := drawnPlay(r)
+		want := p.models(seen)
+		m := p.set(t)
+		for m.Now() < 10000 {
+			nears(t, m, p, want, seen)
+			for d := range want {
+				fars(t, m, d, want[d].far()...)
+				words(t, m, d, want[d].memory()...)
+				seen["marked"] += len(slices.DeleteFunc(want[d].far(), func(b api.Block) bool { return !b.Marked }))
+				seen["written"] += len(want[d].written)
+			}
+			step := 1 + r.Intn(30)
+			if r.Intn(8) == 0 || m.Now() > 2000 {
+				step = 1 + r.Intn(3000)
+			}
+			fine(t, m.Run(min(10000-m.Now(), step)))
+			for d := range want {
+				want[d].until(m.Now())
+			}
+			if t.Failed() {
+				t.Fatalf("P15: it is so of %+v", p)
+			}
+		}
+	}
+	for _, k := range []string{"common", "alone", "changed", "marked", "written"} {
+		if seen[k] < 2000 {
+			t.Errorf("too few plays have this: %s, %d times", k, seen[k])
+		}
+	}
+}
+
+// nears holds all near caches against the models, and counts the states that lie there.
+func nears(t *testing.T, m *Machine, p play, models []*model, seen map[string]int) {
+	t.Helper()
+	for core := 0; core < p.c.Cores; core++ {
+		list := together(t, models, core)
+		copies(t, m, core, list...)
+		for _, lies := range list {
+			seen[[]string{"empty", "common", "alone", "changed"}[lies.State]]++
+		}
 	}
 }

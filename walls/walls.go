@@ -73,10 +73,10 @@ func (m *Machine) Now() int { return m.inner.Now() }
 func (m *Machine) Trace(d int) ([]api.Event, api.Errno) { return m.inner.Trace(d) }
 
 // Near tells what lies in a core's near cache (P15).
-func (m *Machine) Near(core int) ([]api.Copy, api.Errno) { return nil, api.OK }
+func (m *Machine) Near(core int) ([]api.Copy, api.Errno) { return m.inner.Near(core) }
 
 // Far tells what lies in a domain's ways of the far cache (P15).
-func (m *Machine) Far(d int) ([]api.Block, api.Errno) { return nil, api.OK }
+func (m *Machine) Far(d int) ([]api.Block, api.Errno) { return m.inner.Far(d) }
 
 // Memory tells what stands in memory (P15).
-func (m *Machine) Memory(d int, a int) (int, api.Errno) { return 0, api.OK }
+func (m *Machine) Memory(d int, a int) (int, api.Errno) { return m.inner.Memory(d, a) }
